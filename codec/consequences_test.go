@@ -9,6 +9,7 @@ import (
 	"unsafe"
 
 	"docstore/api"
+	"docstore/sample"
 	"docstore/value"
 )
 
@@ -110,9 +111,9 @@ func TestStrictOnChangedEncodings(t *testing.T) {
 // P2.7: a proper prefix of an encoding is too short, and no encoding is one of another.
 func TestPrefixes(t *testing.T) {
 	pool := encodedPool()
-	big := doc(field("a", nulls(500)), field("b", numbered(300)), field("c", text(strings.Repeat("\u00e9", 100))))
-	pool = append(pool, encoded{big, encode(t, big)}, encoded{nestedDocs(api.MaxDepth, doc()), encode(t, nestedDocs(api.MaxDepth, doc()))})
-	most := nulls(api.MaxNodes - 1)
+	big := doc(field("a", sample.Nulls(500)), field("b", sample.Numbered(300)), field("c", text(strings.Repeat("\u00e9", 100))))
+	pool = append(pool, encoded{big, encode(t, big)}, encoded{sample.NestedDocs(api.MaxDepth, doc()), encode(t, sample.NestedDocs(api.MaxDepth, doc()))})
+	most := sample.Nulls(api.MaxNodes - 1)
 	pool = append(pool, encoded{most, encode(t, most)})
 	for i, c := range pool {
 		for n := range len(c.s) {
@@ -126,44 +127,6 @@ func TestPrefixes(t *testing.T) {
 	}
 }
 
-// scribble overwrites everything within a value.
-func scribble(v api.Value) {
-	for i := range v.List {
-		scribble(v.List[i])
-		v.List[i] = text("scribbled")
-	}
-	for i := range v.Doc {
-		scribble(v.Doc[i].Value)
-		v.Doc[i] = field("scribbled", text("scribbled"))
-	}
-}
-
-// cells returns the addresses of all elements and fields within a value, up to the capacities of the slices.
-func cells(v api.Value) []any {
-	var l []any
-	for i := range v.List[:cap(v.List)] {
-		e := &v.List[:cap(v.List)][i]
-		l = append(append(l, e), cells(*e)...)
-	}
-	for i := range v.Doc[:cap(v.Doc)] {
-		f := &v.Doc[:cap(v.Doc)][i]
-		l = append(append(l, f), cells(f.Value)...)
-	}
-	return l
-}
-
-// texts returns all texts and names within a value.
-func texts(v api.Value) []string {
-	l := []string{v.Text}
-	for _, e := range v.List {
-		l = append(l, texts(e)...)
-	}
-	for _, f := range v.Doc {
-		l = append(append(l, f.Name), texts(f.Value)...)
-	}
-	return l
-}
-
 // R5: what is decoded shares no memory with the string, with another result or with another part of the same one.
 func TestDecodedMemory(t *testing.T) {
 	v := doc(field("a", list(doc(field("b", list(num(1), text("text")))), id("0123456789ab"))), field("b", list(octets("bytes"), doc(), list())))
@@ -171,20 +134,20 @@ func TestDecodedMemory(t *testing.T) {
 	first, _, _ := Read(s, 0)
 	second, _ := Decode(s)
 	used := map[any]bool{}
-	for _, c := range append(cells(first), cells(second)...) {
+	for _, c := range append(sample.Cells(first), sample.Cells(second)...) {
 		if used[c] {
 			t.Error("memory occurs twice in the results")
 		}
 		used[c] = true
 	}
 	from := uintptr(unsafe.Pointer(unsafe.StringData(s)))
-	for _, part := range append(texts(first), texts(second)...) {
+	for _, part := range append(sample.Texts(first), sample.Texts(second)...) {
 		at := uintptr(unsafe.Pointer(unsafe.StringData(part)))
 		if part != "" && from <= at && at < from+uintptr(len(s)) {
 			t.Errorf("%q lies within the encoding", part)
 		}
 	}
-	scribble(first)
+	sample.Scribble(first)
 	if !identical(second, v) {
 		t.Error("a change of a result changes another one")
 	}
@@ -196,7 +159,7 @@ func TestEncodedMemory(t *testing.T) {
 	for _, c := range encodedPool() {
 		s := encode(t, c.v)
 		Length(c.v)
-		scribble(c.v)
+		sample.Scribble(c.v)
 		if s != c.s {
 			t.Errorf("a change of the argument changes the encoding %x", s)
 		}

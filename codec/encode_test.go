@@ -7,6 +7,7 @@ import (
 	"testing"
 
 	"docstore/api"
+	"docstore/sample"
 )
 
 // P2.3, P2.4, P2.5: the encodings of all kinds of values.
@@ -43,8 +44,8 @@ func invalidPool() []api.Value {
 		id(""), id("0123456789a"), id("0123456789abc"),
 		doc(field("", null)), doc(field("$a", null)), doc(field("a.b", null)), doc(field(" ", null)), doc(field("\x7f", null)),
 		doc(field(strings.Repeat("a", api.MaxName+1), null)), doc(field("a", num(1)), field("a", num(2))),
-		nestedLists(api.MaxDepth+1, null), nestedDocs(api.MaxDepth+1, doc()), nulls(api.MaxNodes), numbered(api.MaxNodes),
-		nestedLists(1<<16, null), nulls(1 << 16),
+		sample.NestedLists(api.MaxDepth+1, null), sample.NestedDocs(api.MaxDepth+1, doc()), sample.Nulls(api.MaxNodes), sample.Numbered(api.MaxNodes),
+		sample.NestedLists(1<<16, null), sample.Nulls(1 << 16),
 	}
 }
 
@@ -66,11 +67,11 @@ func TestEncodeInvalid(t *testing.T) {
 func TestEncodeLimits(t *testing.T) {
 	name := strings.Repeat("n", api.MaxName)
 	for _, c := range []encoded{
-		{nestedLists(api.MaxDepth, null), strings.Repeat("\x06\x02", api.MaxDepth-1) + "\x02"},
-		{nestedLists(api.MaxDepth, list()), strings.Repeat("\x06\x02", api.MaxDepth-1) + "\x06\x00"},
-		{nestedDocs(api.MaxDepth, doc()), strings.Repeat("\x05\x02\x02a", api.MaxDepth-1) + "\x05\x00"},
-		{nulls(api.MaxNodes - 1), "\x06\xfe\x0f" + strings.Repeat("\x02", api.MaxNodes-1)},
-		{list(nulls(api.MaxNodes-3), null), "\x06\x04\x06\xfa\x0f" + strings.Repeat("\x02", api.MaxNodes-2)},
+		{sample.NestedLists(api.MaxDepth, null), strings.Repeat("\x06\x02", api.MaxDepth-1) + "\x02"},
+		{sample.NestedLists(api.MaxDepth, list()), strings.Repeat("\x06\x02", api.MaxDepth-1) + "\x06\x00"},
+		{sample.NestedDocs(api.MaxDepth, doc()), strings.Repeat("\x05\x02\x02a", api.MaxDepth-1) + "\x05\x00"},
+		{sample.Nulls(api.MaxNodes - 1), "\x06\xfe\x0f" + strings.Repeat("\x02", api.MaxNodes-1)},
+		{list(sample.Nulls(api.MaxNodes-3), null), "\x06\x04\x06\xfa\x0f" + strings.Repeat("\x02", api.MaxNodes-2)},
 		{text(strings.Repeat("a", api.MaxText)), "\x04\x80\x40" + strings.Repeat("a", api.MaxText)},
 		{octets(strings.Repeat("\xff", api.MaxText)), "\x07\x80\x40" + strings.Repeat("\xff", api.MaxText)},
 		{doc(field(name, null)), "\x05\x02\x40" + name + "\x02"},
@@ -79,7 +80,7 @@ func TestEncodeLimits(t *testing.T) {
 	} {
 		expectAccepted(t, c.s, c.v)
 	}
-	v := numbered(api.MaxNodes - 1)
+	v := sample.Numbered(api.MaxNodes - 1)
 	expectAccepted(t, encode(t, v), v)
 }
 

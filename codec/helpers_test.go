@@ -146,36 +146,3 @@ func encodedPool() []encoded {
 		{nested, "\x05\x06\x06_id\x08abcdefghijkl\x02l\x06\x04\x05\x04\x02n\x03\x03\x02x\x01\x06\x04\x0b\x07\x04\x00\xff\x02t\x0a\x80\x02"},
 	}
 }
-
-// nestedLists returns a value of the given number of levels, the innermost of which is the given value.
-func nestedLists(levels int, inner api.Value) api.Value {
-	for range levels - 1 {
-		inner = list(inner)
-	}
-	return inner
-}
-
-// nestedDocs does the same with documents.
-func nestedDocs(levels int, inner api.Value) api.Value {
-	for range levels - 1 {
-		inner = doc(field("a", inner))
-	}
-	return inner
-}
-
-func nulls(n int) api.Value {
-	l := make([]api.Value, n)
-	for i := range l {
-		l[i] = null
-	}
-	return list(l...)
-}
-
-// numbered returns a document of n fields with distinct names.
-func numbered(n int) api.Value {
-	fields := make([]api.Field, n)
-	for i := range fields {
-		fields[i] = field(fmt.Sprintf("f%d", i), null)
-	}
-	return doc(fields...)
-}

@@ -6,6 +6,7 @@ import (
 	"testing"
 
 	"docstore/api"
+	"docstore/sample"
 )
 
 // P2.4: the offset comes before every other error.
@@ -143,14 +144,14 @@ func TestReadLevels(t *testing.T) {
 	}
 	expectAccepted(t, encode(t, wide), wide)
 	// A value of the last level may be behind another one of it.
-	deep := nestedLists(api.MaxDepth-1, list(null, num(1), list(), doc()))
+	deep := sample.NestedLists(api.MaxDepth-1, list(null, num(1), list(), doc()))
 	expectAccepted(t, encode(t, deep), deep)
 }
 
 // P2.4: a value behind MaxNodes others is refused before its Kind, but not before the name of its field.
 func TestReadNodes(t *testing.T) {
 	most := strings.Repeat("\x02", api.MaxNodes-1)
-	expectAccepted(t, "\x06"+Num(api.MaxNodes-1)+most, nulls(api.MaxNodes-1))
+	expectAccepted(t, "\x06"+Num(api.MaxNodes-1)+most, sample.Nulls(api.MaxNodes-1))
 	for _, s := range []string{"", "\x02", "\x00", "\x02\x02"} {
 		expectRefused(t, "\x06"+Num(api.MaxNodes)+most+s, api.ErrLimit)
 		expectRefused(t, "\x06\x04\x06"+Num(api.MaxNodes-2)+most[1:]+s, api.ErrLimit)

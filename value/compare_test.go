@@ -7,6 +7,7 @@ import (
 	"testing"
 
 	"docstore/api"
+	"docstore/sample"
 )
 
 func expectCompare(t *testing.T, a, b api.Value, want int) {
@@ -106,11 +107,11 @@ func TestCompareUnusedFields(t *testing.T) {
 // P1.4: the comparison goes through all levels.
 func TestCompareDeepValues(t *testing.T) {
 	for _, levels := range []int{2, api.MaxDepth + 1, 1 << 16} {
-		expectCompare(t, nestedLists(levels), nestedLists(levels), 0)
-		expectCompare(t, nestedLists(levels), nestedLists(levels+1), -1)
-		expectCompare(t, nestedDocs(levels+1), nestedDocs(levels), 1)
+		expectCompare(t, sample.NestedLists(levels, list()), sample.NestedLists(levels, list()), 0)
+		expectCompare(t, sample.NestedLists(levels, list()), sample.NestedLists(levels+1, list()), -1)
+		expectCompare(t, sample.NestedDocs(levels+1, doc()), sample.NestedDocs(levels, doc()), 1)
 	}
-	long := nulls(100000)
+	long := sample.Nulls(100000).List
 	other := append(slices.Clone(long[1:]), num(1))
 	expectCompare(t, list(long...), list(other...), -1)
 }

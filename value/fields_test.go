@@ -5,6 +5,7 @@ import (
 	"testing"
 
 	"docstore/api"
+	"docstore/sample"
 )
 
 // notDocuments returns values of other kinds, each of which contains a field a that must not be found.
@@ -84,8 +85,8 @@ func TestSet(t *testing.T) {
 			t.Errorf("Set changed %s to %s", before, show(c.d))
 		}
 	}
-	odd := api.Value{Kind: api.KindDoc, Int: 5, Text: "t", List: nulls(2), Doc: []api.Field{a}}
-	want := api.Value{Kind: api.KindDoc, Int: 5, Text: "t", List: nulls(2), Doc: []api.Field{a, b}}
+	odd := api.Value{Kind: api.KindDoc, Int: 5, Text: "t", List: sample.Nulls(2).List, Doc: []api.Field{a}}
+	want := api.Value{Kind: api.KindDoc, Int: 5, Text: "t", List: sample.Nulls(2).List, Doc: []api.Field{a, b}}
 	expectValue(t, "Set in a document with other fields of the struct", Set(odd, "b", num(2)), want)
 }
 
@@ -125,8 +126,8 @@ func TestRemove(t *testing.T) {
 			t.Errorf("Remove changed %s to %s", before, show(c.d))
 		}
 	}
-	odd := api.Value{Kind: api.KindDoc, Int: 5, Text: "t", List: nulls(2), Doc: []api.Field{a, b}}
-	want := api.Value{Kind: api.KindDoc, Int: 5, Text: "t", List: nulls(2), Doc: []api.Field{b}}
+	odd := api.Value{Kind: api.KindDoc, Int: 5, Text: "t", List: sample.Nulls(2).List, Doc: []api.Field{a, b}}
+	want := api.Value{Kind: api.KindDoc, Int: 5, Text: "t", List: sample.Nulls(2).List, Doc: []api.Field{b}}
 	expectValue(t, "Remove in a document with other fields of the struct", Remove(odd, "a"), want)
 }
 

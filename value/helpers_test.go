@@ -27,41 +27,6 @@ func doc(fields ...api.Field) api.Value { return api.Value{Kind: api.KindDoc, Do
 
 func field(name string, v api.Value) api.Field { return api.Field{Name: name, Value: v} }
 
-// nestedLists returns a value of the given number of levels, the innermost of which is an empty list.
-func nestedLists(levels int) api.Value {
-	v := list()
-	for range levels - 1 {
-		v = list(v)
-	}
-	return v
-}
-
-// nestedDocs returns a value of the given number of levels, the innermost of which is an empty document.
-func nestedDocs(levels int) api.Value {
-	v := doc()
-	for range levels - 1 {
-		v = doc(field("a", v))
-	}
-	return v
-}
-
-func nulls(n int) []api.Value {
-	l := make([]api.Value, n)
-	for i := range l {
-		l[i] = null
-	}
-	return l
-}
-
-// numbered returns n fields with the names f0, f1 and so on.
-func numbered(n int) []api.Field {
-	fields := make([]api.Field, n)
-	for i := range fields {
-		fields[i] = field(fmt.Sprintf("f%d", i), num(i))
-	}
-	return fields
-}
-
 // show writes every field of the struct, so that values are identical exactly if show returns the same string for both.
 func show(v api.Value) string {
 	var b strings.Builder

@@ -4,6 +4,7 @@ import (
 	"testing"
 
 	"docstore/api"
+	"docstore/sample"
 )
 
 // nestedSample returns a value with lists and documents at several levels, also in fields that the kinds do not use. Each call returns new memory.
@@ -17,42 +18,16 @@ func nestedSample() api.Value {
 	}
 }
 
-// cells returns the addresses of all elements and fields within a value, up to the capacities of the slices.
-func cells(v api.Value) []any {
-	var l []any
-	for i := range v.List[:cap(v.List)] {
-		e := &v.List[:cap(v.List)][i]
-		l = append(append(l, e), cells(*e)...)
-	}
-	for i := range v.Doc[:cap(v.Doc)] {
-		f := &v.Doc[:cap(v.Doc)][i]
-		l = append(append(l, f), cells(f.Value)...)
-	}
-	return l
-}
-
-// scribble overwrites everything within a value.
-func scribble(v api.Value) {
-	for i := range v.List {
-		scribble(v.List[i])
-		v.List[i] = text("scribbled")
-	}
-	for i := range v.Doc {
-		scribble(v.Doc[i].Value)
-		v.Doc[i] = field("scribbled", text("scribbled"))
-	}
-}
-
 // expectSeparate checks that no memory occurs twice within a result, or in the result and an argument, and that changes of either do not reach the other.
 func expectSeparate(t *testing.T, what string, result api.Value, args ...api.Value) {
 	t.Helper()
 	used := map[any]bool{}
 	for _, arg := range args {
-		for _, c := range cells(arg) {
+		for _, c := range sample.Cells(arg) {
 			used[c] = true
 		}
 	}
-	for _, c := range cells(result) {
+	for _, c := range sample.Cells(result) {
 		if used[c] {
 			t.Errorf("%s: memory of the result occurs twice, or in an argument", what)
 			return
@@ -60,7 +35,7 @@ func expectSeparate(t *testing.T, what string, result api.Value, args ...api.Val
 		used[c] = true
 	}
 	before := showAll(args)
-	scribble(result)
+	sample.Scribble(result)
 	if showAll(args) != before {
 		t.Errorf("%s: a change of the result changes an argument", what)
 	}
@@ -121,9 +96,9 @@ func TestArgumentsAreNotKept(t *testing.T) {
 	got, _ := Get(d, "a")
 	results := []api.Value{got, Set(d, "a", v), Set(d, "new", v), Remove(d, "a"), list(Sort(l)...)}
 	before := showAll(results)
-	scribble(d)
-	scribble(v)
-	scribble(list(l...))
+	sample.Scribble(d)
+	sample.Scribble(v)
+	sample.Scribble(list(l...))
 	if showAll(results) != before {
 		t.Error("a change of an argument changes a result")
 	}
@@ -152,7 +127,7 @@ func TestArgumentsAreUnchanged(t *testing.T) {
 
 // R1: values of 2^16 levels are copied.
 func TestDeepValuesAreCopied(t *testing.T) {
-	deep := nestedDocs(1 << 16)
+	deep := sample.NestedDocs(1<<16, doc())
 	if got := Set(doc(field("b", deep)), "a", deep); len(got.Doc) != 2 || Compare(got.Doc[1].Value, deep) != 0 {
 		t.Error("Set of a deep value")
 	}
@@ -162,7 +137,7 @@ func TestDeepValuesAreCopied(t *testing.T) {
 	if got := Remove(deep, "b"); Compare(got, deep) != 0 {
 		t.Error("Remove in a deep value")
 	}
-	if got := Sort([]api.Value{deep, nestedDocs(2)}); len(got) != 2 || Compare(got[1], deep) != 0 {
+	if got := Sort([]api.Value{deep, sample.NestedDocs(2, doc())}); len(got) != 2 || Compare(got[1], deep) != 0 {
 		t.Error("Sort of deep values")
 	}
 }

@@ -8,6 +8,7 @@ import (
 	"testing"
 
 	"docstore/api"
+	"docstore/sample"
 )
 
 func expectValid(t *testing.T, what string, v api.Value, want bool) {
@@ -144,9 +145,9 @@ func TestValidNames(t *testing.T) {
 // P1.1: the names of one document are distinct.
 func TestValidRepeatedNames(t *testing.T) {
 	for _, n := range []int{2, 3, 8, 9, 20, 500} {
-		expectValid(t, fmt.Sprint("distinct fields: ", n), doc(numbered(n)...), true)
+		expectValid(t, fmt.Sprint("distinct fields: ", n), sample.Numbered(n), true)
 		for _, i := range []int{0, (n - 2) / 2, n - 2} {
-			fields := numbered(n)
+			fields := sample.Numbered(n).Doc
 			fields[n-1].Name = fields[i].Name
 			expectValid(t, fmt.Sprint("a repeated name among fields: ", n), doc(fields...), false)
 		}
@@ -160,13 +161,13 @@ func TestValidRepeatedNames(t *testing.T) {
 
 // P1.1: exactly MaxDepth levels and one more.
 func TestValidLevels(t *testing.T) {
-	for _, nested := range []func(int) api.Value{nestedLists, nestedDocs} {
-		deepest := nested(api.MaxDepth)
+	for _, nested := range []func(int, api.Value) api.Value{sample.NestedLists, sample.NestedDocs} {
+		deepest := nested(api.MaxDepth, list())
 		expectValid(t, "MaxDepth levels", deepest, true)
-		expectValid(t, "MaxDepth+1 levels", nested(api.MaxDepth+1), false)
-		expectValid(t, "MaxDepth+1 levels behind others", list(num(1), nested(2), deepest), false)
+		expectValid(t, "MaxDepth+1 levels", nested(api.MaxDepth+1, list()), false)
+		expectValid(t, "MaxDepth+1 levels behind others", list(num(1), nested(2, doc()), deepest), false)
 		expectValid(t, "MaxDepth+1 levels before others", list(deepest, num(1)), false)
-		expectValid(t, "2^16 levels", nested(1<<16), false)
+		expectValid(t, "2^16 levels", nested(1<<16, doc()), false)
 	}
 	scalar := list(num(1))
 	for range api.MaxDepth - 2 {
@@ -178,12 +179,12 @@ func TestValidLevels(t *testing.T) {
 
 // P1.1: exactly MaxNodes values and one more.
 func TestValidNodes(t *testing.T) {
-	expectValid(t, "a list of MaxNodes values", list(nulls(api.MaxNodes-1)...), true)
-	expectValid(t, "a list of MaxNodes+1 values", list(nulls(api.MaxNodes)...), false)
-	expectValid(t, "a document of MaxNodes values", doc(numbered(api.MaxNodes-1)...), true)
-	expectValid(t, "a document of MaxNodes+1 values", doc(numbered(api.MaxNodes)...), false)
-	half := list(nulls(api.MaxNodes/2 - 1)...)
-	expectValid(t, "a nested list of MaxNodes values", list(half, list(nulls(api.MaxNodes/2-2)...)), true)
+	expectValid(t, "a list of MaxNodes values", sample.Nulls(api.MaxNodes-1), true)
+	expectValid(t, "a list of MaxNodes+1 values", sample.Nulls(api.MaxNodes), false)
+	expectValid(t, "a document of MaxNodes values", sample.Numbered(api.MaxNodes-1), true)
+	expectValid(t, "a document of MaxNodes+1 values", sample.Numbered(api.MaxNodes), false)
+	half := sample.Nulls(api.MaxNodes/2 - 1)
+	expectValid(t, "a nested list of MaxNodes values", list(half, sample.Nulls(api.MaxNodes/2-2)), true)
 	expectValid(t, "a nested list of MaxNodes+1 values", list(half, half), false)
 }
 
@@ -235,7 +236,7 @@ func expectCount(t *testing.T, what string, got, want int) {
 
 // P1.2.
 func TestDepth(t *testing.T) {
-	inner := nestedLists(5)
+	inner := sample.NestedLists(5, list())
 	for _, c := range []struct {
 		what string
 		v    api.Value
@@ -266,12 +267,12 @@ func TestDepth(t *testing.T) {
 func TestDepthLimit(t *testing.T) {
 	for levels := 1; levels <= api.MaxDepth+4; levels++ {
 		want := min(levels, api.MaxDepth+1)
-		expectCount(t, "Depth of nested lists", Depth(nestedLists(levels)), want)
-		expectCount(t, "Depth of nested documents", Depth(nestedDocs(levels)), want)
-		expectCount(t, "Depth behind another element", Depth(list(num(1), nestedLists(levels))), min(levels+1, api.MaxDepth+1))
+		expectCount(t, "Depth of nested lists", Depth(sample.NestedLists(levels, list())), want)
+		expectCount(t, "Depth of nested documents", Depth(sample.NestedDocs(levels, doc())), want)
+		expectCount(t, "Depth behind another element", Depth(list(num(1), sample.NestedLists(levels, list()))), min(levels+1, api.MaxDepth+1))
 	}
-	expectCount(t, "Depth of 2^16 lists", Depth(nestedLists(1<<16)), api.MaxDepth+1)
-	expectCount(t, "Depth of 2^16 documents", Depth(nestedDocs(1<<16)), api.MaxDepth+1)
+	expectCount(t, "Depth of 2^16 lists", Depth(sample.NestedLists(1<<16, list())), api.MaxDepth+1)
+	expectCount(t, "Depth of 2^16 documents", Depth(sample.NestedDocs(1<<16, doc())), api.MaxDepth+1)
 }
 
 // P1.3.
@@ -288,10 +289,10 @@ func TestNodes(t *testing.T) {
 		{"the document of the chapter", doc(field("a", num(1)), field("b", list(num(2), num(3)))), 5},
 		{"nested lists", list(list(list()), list(null, null), null), 7},
 		{"repeated names", doc(field("a", null), field("a", null)), 3},
-		{"an integer with a list", api.Value{Kind: api.KindInt, List: nulls(3)}, 1},
-		{"an unknown kind with parts", api.Value{Kind: -9, List: nulls(3), Doc: numbered(3)}, 1},
-		{"a list with fields", api.Value{Kind: api.KindList, List: nulls(3), Doc: numbered(5)}, 4},
-		{"a document with elements", api.Value{Kind: api.KindDoc, List: nulls(3), Doc: numbered(5)}, 6},
+		{"an integer with a list", api.Value{Kind: api.KindInt, List: sample.Nulls(3).List}, 1},
+		{"an unknown kind with parts", api.Value{Kind: -9, List: sample.Nulls(3).List, Doc: sample.Numbered(3).Doc}, 1},
+		{"a list with fields", api.Value{Kind: api.KindList, List: sample.Nulls(3).List, Doc: sample.Numbered(5).Doc}, 4},
+		{"a document with elements", api.Value{Kind: api.KindDoc, List: sample.Nulls(3).List, Doc: sample.Numbered(5).Doc}, 6},
 	} {
 		expectCount(t, "Nodes of "+c.what, Nodes(c.v), c.want)
 	}
@@ -301,13 +302,13 @@ func TestNodes(t *testing.T) {
 func TestNodesLimit(t *testing.T) {
 	for n := api.MaxNodes - 3; n <= api.MaxNodes+3; n++ {
 		want := min(n, api.MaxNodes+1)
-		expectCount(t, "Nodes of a list", Nodes(list(nulls(n-1)...)), want)
-		expectCount(t, "Nodes of a document", Nodes(doc(numbered(n-1)...)), want)
-		expectCount(t, "Nodes of nested lists", Nodes(nestedLists(n)), want)
-		expectCount(t, "Nodes of a list of lists", Nodes(list(list(nulls(500)...), list(nulls(n-503)...))), want)
+		expectCount(t, "Nodes of a list", Nodes(sample.Nulls(n-1)), want)
+		expectCount(t, "Nodes of a document", Nodes(sample.Numbered(n-1)), want)
+		expectCount(t, "Nodes of nested lists", Nodes(sample.NestedLists(n, list())), want)
+		expectCount(t, "Nodes of a list of lists", Nodes(list(sample.Nulls(500), sample.Nulls(n-503))), want)
 	}
-	expectCount(t, "Nodes of 2^20 elements", Nodes(list(nulls(1<<20)...)), api.MaxNodes+1)
-	expectCount(t, "Nodes of 2^16 levels", Nodes(nestedDocs(1<<16)), api.MaxNodes+1)
+	expectCount(t, "Nodes of 2^20 elements", Nodes(sample.Nulls(1<<20)), api.MaxNodes+1)
+	expectCount(t, "Nodes of 2^16 levels", Nodes(sample.NestedDocs(1<<16, doc())), api.MaxNodes+1)
 }
 
 // P1.2, P1.3: both agree with their definitions for values of all forms.
@@ -323,7 +324,7 @@ func TestDepthAndNodesByDefinition(t *testing.T) {
 // P1.11: a part of a valid value is valid.
 func TestPartsOfValidValues(t *testing.T) {
 	r := rand.New(rand.NewPCG(2, 2))
-	pool := append(validPool(), nestedLists(api.MaxDepth), nestedDocs(api.MaxDepth), list(nulls(api.MaxNodes-1)...))
+	pool := append(validPool(), sample.NestedLists(api.MaxDepth, list()), sample.NestedDocs(api.MaxDepth, doc()), sample.Nulls(api.MaxNodes-1))
 	for range 200000 {
 		if v := randomValue(r, 1+r.IntN(4)); Valid(v) && len(partsOf(v)) > 0 {
 			pool = append(pool, v)
