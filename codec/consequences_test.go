@@ -133,12 +133,8 @@ func TestDecodedMemory(t *testing.T) {
 	s := encode(t, v)
 	first, _, _ := Read(s, 0)
 	second, _ := Decode(s)
-	used := map[any]bool{}
-	for _, c := range append(sample.Cells(first), sample.Cells(second)...) {
-		if used[c] {
-			t.Error("memory occurs twice in the results")
-		}
-		used[c] = true
+	if sample.Shared([]api.Value{first, second}, nil) {
+		t.Error("memory occurs twice in the results")
 	}
 	from := uintptr(unsafe.Pointer(unsafe.StringData(s)))
 	for _, part := range append(sample.Texts(first), sample.Texts(second)...) {

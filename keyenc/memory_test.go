@@ -30,12 +30,8 @@ func TestDecodedMemory(t *testing.T) {
 	s := encode(t, memorySample(), memoryDirections)
 	first, _ := Decode(s, memoryDirections)
 	second, _ := Decode(s, memoryDirections)
-	used := map[any]bool{}
-	for _, c := range append(sample.Cells(list(first...)), sample.Cells(list(second...))...) {
-		if used[c] {
-			t.Error("memory occurs twice in the results")
-		}
-		used[c] = true
+	if sample.Shared(values(list(first...), list(second...)), nil) {
+		t.Error("memory occurs twice in the results")
 	}
 	for _, part := range append(sample.Texts(list(first...)), sample.Texts(list(second...))...) {
 		if liesWithin(part, s) {

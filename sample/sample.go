@@ -1,8 +1,9 @@
-// Package sample helps the tests of the layers: it makes values at the limits, and tells which memory a value occupies. The program itself does not use it.
+// Package sample helps the tests of the layers: it makes values at the limits, shows values whole, and tells which memory they occupy. The program itself does not use it.
 package sample
 
 import (
 	"strconv"
+	"strings"
 
 	"docstore/api"
 )
@@ -39,6 +40,45 @@ func Numbered(n int) api.Value {
 		fields[i] = api.Field{Name: "f" + strconv.Itoa(i), Value: api.Value{Kind: api.KindInt, Int: i}}
 	}
 	return api.Value{Kind: api.KindDoc, Doc: fields}
+}
+
+// Show writes every field of the struct at every level, so that values are identical exactly if Show returns the same string for both.
+func Show(v api.Value) string {
+	var b strings.Builder
+	show(&b, v)
+	return b.String()
+}
+
+func show(b *strings.Builder, v api.Value) {
+	b.WriteString("{" + strconv.Itoa(v.Kind) + " " + strconv.Itoa(v.Int) + " " + strconv.Quote(v.Text) + " [")
+	for _, e := range v.List {
+		show(b, e)
+	}
+	b.WriteString("] (")
+	for _, f := range v.Doc {
+		b.WriteString(strconv.Quote(f.Name) + ":")
+		show(b, f.Value)
+	}
+	b.WriteString(")}")
+}
+
+// Shared reports whether results share memory: one of them with an argument, with another result, or one part of it with another part.
+func Shared(results, args []api.Value) bool {
+	used := map[any]bool{}
+	for _, arg := range args {
+		for _, c := range Cells(arg) {
+			used[c] = true
+		}
+	}
+	for _, result := range results {
+		for _, c := range Cells(result) {
+			if used[c] {
+				return true
+			}
+			used[c] = true
+		}
+	}
+	return false
 }
 
 // Cells returns the addresses of all elements and fields within a value, up to the capacities of the slices.

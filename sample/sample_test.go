@@ -38,6 +38,50 @@ func TestCells(t *testing.T) {
 	}
 }
 
+// Show tells apart what differs in any field of the struct, and nothing else.
+func TestShow(t *testing.T) {
+	field := api.Field{Name: "a", Value: api.Value{Kind: 1}}
+	seen := map[string]bool{}
+	for _, v := range []api.Value{
+		{}, {Kind: 1}, {Int: 1}, {Int: -1}, {Text: "a"}, {Text: "\xff"}, {Text: "\ufffd"}, {Text: "[] ()"},
+		{List: []api.Value{{}}}, {List: []api.Value{{}, {}}}, {List: []api.Value{{Int: 1}}}, {List: []api.Value{{List: []api.Value{{}}}}},
+		{Doc: []api.Field{{}}}, {Doc: []api.Field{field}}, {Doc: []api.Field{field, field}}, {Doc: []api.Field{{Name: "b", Value: field.Value}}},
+		{List: []api.Value{{Doc: []api.Field{field}}}}, {Doc: []api.Field{{Name: "a", Value: api.Value{Doc: []api.Field{field}}}}},
+	} {
+		if seen[Show(v)] {
+			t.Errorf("%+v is shown like another value", v)
+		}
+		seen[Show(v)] = true
+	}
+	if Show(api.Value{Kind: 5}) != Show(api.Value{Kind: 5, List: []api.Value{}, Doc: []api.Field{}}) {
+		t.Error("nil lists and empty lists are shown differently")
+	}
+}
+
+// Shared finds memory that occurs twice, except within the arguments.
+func TestShared(t *testing.T) {
+	inner := NestedDocs(2, Nulls(2))
+	other := NestedDocs(2, Nulls(2))
+	twice := api.Value{Kind: api.KindList, List: []api.Value{inner, inner}}
+	for _, c := range []struct {
+		results, args []api.Value
+		want          bool
+	}{
+		{nil, nil, false},
+		{[]api.Value{inner, other}, nil, false},
+		{[]api.Value{inner}, []api.Value{other}, false},
+		{[]api.Value{other}, []api.Value{twice, inner}, false},
+		{[]api.Value{inner, inner}, nil, true},
+		{[]api.Value{twice}, nil, true},
+		{[]api.Value{other, inner}, []api.Value{twice}, true},
+		{[]api.Value{inner.Doc[0].Value}, []api.Value{other, inner}, true},
+	} {
+		if got := Shared(c.results, c.args); got != c.want {
+			t.Errorf("Shared of %+v, %+v: %t", c.results, c.args, got)
+		}
+	}
+}
+
 // Scribble leaves nothing within a value as it was.
 func TestScribble(t *testing.T) {
 	v := api.Value{Kind: api.KindList, List: []api.Value{NestedDocs(2, Nulls(1)), {Kind: api.KindNull}}}

@@ -1,13 +1,12 @@
 package value
 
 import (
-	"fmt"
 	"math"
 	"math/rand/v2"
-	"strings"
 	"testing"
 
 	"docstore/api"
+	"docstore/sample"
 )
 
 var (
@@ -27,20 +26,7 @@ func doc(fields ...api.Field) api.Value { return api.Value{Kind: api.KindDoc, Do
 
 func field(name string, v api.Value) api.Field { return api.Field{Name: name, Value: v} }
 
-// show writes every field of the struct, so that values are identical exactly if show returns the same string for both.
-func show(v api.Value) string {
-	var b strings.Builder
-	fmt.Fprintf(&b, "{%d %d %q [", v.Kind, v.Int, v.Text)
-	for _, e := range v.List {
-		b.WriteString(show(e))
-	}
-	b.WriteString("] (")
-	for _, f := range v.Doc {
-		fmt.Fprintf(&b, "%q:%s", f.Name, show(f.Value))
-	}
-	b.WriteString(")}")
-	return b.String()
-}
+func show(v api.Value) string { return sample.Show(v) }
 
 func showAll(l []api.Value) string { return show(list(l...)) }
 

@@ -21,18 +21,9 @@ func nestedSample() api.Value {
 // expectSeparate checks that no memory occurs twice within a result, or in the result and an argument, and that changes of either do not reach the other.
 func expectSeparate(t *testing.T, what string, result api.Value, args ...api.Value) {
 	t.Helper()
-	used := map[any]bool{}
-	for _, arg := range args {
-		for _, c := range sample.Cells(arg) {
-			used[c] = true
-		}
-	}
-	for _, c := range sample.Cells(result) {
-		if used[c] {
-			t.Errorf("%s: memory of the result occurs twice, or in an argument", what)
-			return
-		}
-		used[c] = true
+	if sample.Shared([]api.Value{result}, args) {
+		t.Errorf("%s: memory of the result occurs twice, or in an argument", what)
+		return
 	}
 	before := showAll(args)
 	sample.Scribble(result)
